@@ -1,19 +1,22 @@
 package wire
 
-import "gossip/api"
+import (
+	"gossip/api"
+	"gossip/bounds"
+)
 
 // maxSeq is the greatest number that four bytes hold.
 const maxSeq = 1<<32 - 1
 
 func whole(m api.Message) bool {
-	return isId(m.From) && isInc(m.Inc) && isSeq(m.Seq) && suitsKind(m) && allKeys(m.Updates)
+	return bounds.IsId(m.From) && isInc(m.Inc) && isSeq(m.Seq) && suitsKind(m) && allKeys(m.Updates)
 }
 
 // suitsKind asks for what differs from kind to kind; a kind that is none suits nothing.
 func suitsKind(m api.Message) bool {
 	switch m.Kind {
 	case api.Ping, api.Ack, api.Ask:
-		return isId(m.Target) && len(m.Updates) <= api.MaxUpdates
+		return bounds.IsId(m.Target) && len(m.Updates) <= api.MaxUpdates
 	case api.Join, api.Table:
 		return m.Target == 0 && len(m.Updates) <= api.MaxMembers
 	}
@@ -30,14 +33,12 @@ func allKeys(l []api.Key) bool {
 }
 
 func isKey(k api.Key) bool {
-	return isId(k.Id) && isInc(k.Inc) && isState(k.State)
+	return bounds.IsId(k.Id) && isInc(k.Inc) && isState(k.State)
 }
 
-func isId(n int) bool { return n >= 1 && n <= api.MaxId }
+func isInc(n int) bool { return bounds.Within(n, 1, api.MaxInc) }
 
-func isInc(n int) bool { return n >= 1 && n <= api.MaxInc }
-
-func isSeq(n int) bool { return n >= 0 && n <= maxSeq }
+func isSeq(n int) bool { return bounds.Within(n, 0, maxSeq) }
 
 func isState(n int) bool {
 	switch n {
