@@ -17,6 +17,7 @@ func Decode(b string) (api.Message, error) { return wire.Decode(b) }
 // Node is one of many.
 type Node struct {
 	config  api.Config
+	draw    func(n int) int // gives a number below n
 	clock   int
 	table   map[int]member // by ids, the node itself among them
 	pass    []int          // who is still to be probed in this one
@@ -33,7 +34,7 @@ func New(c api.Config, draw func(n int) int) (*Node, error) {
 	if !inOrder(c) {
 		return nil, api.ErrConfig
 	}
-	x := &Node{config: c, table: make(map[int]member), events: make(chan api.Key, api.MaxEvents)}
+	x := &Node{config: c, draw: draw, table: make(map[int]member), events: make(chan api.Key, api.MaxEvents)}
 	// That a node begins is no change: there is nothing to tell, nor to pass on.
 	x.table[c.Self] = member{Key: api.Key{Id: c.Self, Inc: 1, State: api.Alive}}
 	return x, nil
@@ -53,7 +54,7 @@ func (x *Node) See() api.State {
 	return api.State{
 		Clock:   x.clock,
 		Self:    x.self(),
-		Others:  list.Turn(list.Drop(x.members(), x.isSelf), member.key),
+		Others:  x.others(),
 		Probe:   x.probe.target,
 		Pending: len(list.Keep(x.members(), member.isPending)),
 		Relays:  len(x.relays),
@@ -102,4 +103,10 @@ func (x *Node) Leave() error {
 }
 
 // Tick is one tick of the clock; what it sends (P9).
-func (x *Node) Tick() []api.Packet { return nil }
+func (x *Node) Tick() []api.Packet {
+	x.clock++
+	x.endRelays()
+	x.endSuspects()
+	out := x.goOnProbing()
+	return append(out, x.probeNext()...)
+}

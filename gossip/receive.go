@@ -5,12 +5,6 @@ import (
 	"gossip/list"
 )
 
-// probe is what the node waits for from who is probed now; target is 0, if there is nobody.
-type probe struct {
-	target, number int
-	answered       bool
-}
-
 // relay is a ping that the node sent because another one asked for it.
 type relay struct {
 	target, number    int

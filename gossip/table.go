@@ -26,6 +26,16 @@ func (x *Node) members() []member {
 	return list.Turn(ids, func(id int) member { return x.table[id] })
 }
 
+// others gives the keys of all but the node itself, by rising ids.
+func (x *Node) others() []api.Key {
+	return list.Turn(list.Drop(x.members(), x.isSelf), member.key)
+}
+
+// present gives the ids of the others that can be probed or asked, by rising ids.
+func (x *Node) present() []int {
+	return list.Turn(list.Keep(x.others(), isThere), func(k api.Key) int { return k.Id })
+}
+
 func (x *Node) self() api.Key { return x.table[x.config.Self].Key }
 
 func (x *Node) isSelf(m member) bool { return m.Id == x.config.Self }
@@ -62,7 +72,7 @@ func (x *Node) hearOfOther(k api.Key) {
 	}
 	x.change(k)
 	if !isThere(k) {
-		x.pass = list.Drop(x.pass, func(id int) bool { return id == k.Id })
+		x.pass = without(x.pass, k.Id)
 	}
 }
 
@@ -72,6 +82,10 @@ func isGreater(a, b api.Key) bool {
 		return a.Inc > b.Inc
 	}
 	return a.State > b.State
+}
+
+func without(ids []int, gone int) []int {
+	return list.Drop(ids, func(id int) bool { return id == gone })
 }
 
 func isThere(k api.Key) bool { return k.State == api.Alive || k.State == api.Suspect }
